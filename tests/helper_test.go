@@ -44,6 +44,11 @@ func within(part, whole string) bool {
 	return p < w+uintptr(len(whole)) && w < p+uintptr(len(part))
 }
 
+// over answers the text that lies on these bytes, so that who wrote into it would be seen in them.
+func over(row []byte) string {
+	return unsafe.String(unsafe.SliceData(row), len(row))
+}
+
 // texts calls see with each text of at most length bytes that stand in letters.
 func texts(letters string, length int, see func(string)) {
 	see("")
