@@ -44,6 +44,14 @@ func within(part, whole string) bool {
 	return p < w+uintptr(len(whole)) && w < p+uintptr(len(part))
 }
 
+// apart fails where two texts lie in the same memory.
+func apart(t *testing.T, what, a, b string) {
+	t.Helper()
+	if within(a, b) {
+		t.Fatalf("%s: %.30q and %.30q share memory", what, a, b)
+	}
+}
+
 // over answers the text that lies on these bytes, so that who wrote into it would be seen in them.
 func over(row []byte) string {
 	return unsafe.String(unsafe.SliceData(row), len(row))
