@@ -645,13 +645,19 @@ func TestDropAndMissingOfStores(t *testing.T) {
 	}
 }
 
-func TestDropAndMissingOfManyDigests(t *testing.T) {
-	full := fullStore()
-	var many, wanted []int64
+// veryMany are numbers that no text has as its Digest, some of them twice; and each of them once.
+func veryMany() ([]int64, []int64) {
+	var many, once []int64
 	for i := range int64(150000) {
 		many = append(many, -i, i+greatestDigest+1, -i)
-		wanted = append(wanted, -i, i+greatestDigest+1)
+		once = append(once, -i, i+greatestDigest+1)
 	}
+	return many, once
+}
+
+func TestDropAndMissingOfManyDigests(t *testing.T) {
+	full := fullStore()
+	many, wanted := veryMany()
 	for _, list := range [][]impl.Blob{nil, full} {
 		if missing := impl.Missing(list, slices.Concat(many, digestsOf(list), many)); !slices.Equal(missing, wanted) {
 			t.Errorf("Missing of very many digests in %d Blobs is %d, not %d", len(list), len(missing), len(wanted))
