@@ -98,14 +98,20 @@ func (c *cursor) number() (int64, bool) {
 }
 
 func (c *cursor) text() (string, bool) {
+	s, ok := c.piece(MaxText)
+	// A piece of the row would keep, and share, the memory of the whole one.
+	return strings.Clone(s), ok
+}
+
+// piece reads the Number of at most so many bytes, and these, which lie in the memory of the row.
+func (c *cursor) piece(most int64) (string, bool) {
 	ahead := *c
 	size, ok := ahead.number()
-	if !ok || size > MaxText || size > int64(len(ahead.row)-ahead.at) {
+	if !ok || size > most || size > int64(len(ahead.row)-ahead.at) {
 		return "", false
 	}
 	c.at = ahead.at + int(size)
-	// A piece of the row would keep, and share, the memory of the whole one.
-	return strings.Clone(c.row[ahead.at:c.at]), true
+	return c.row[ahead.at:c.at], true
 }
 
 // readList asks for nothing behind the last item, because no list makes a row that goes on.
